@@ -39,9 +39,9 @@ func Spell(s string) string {
 	return enclosed(s)
 }
 
-// Is tells whether a word is a keyword, in letters of any case.
+// Is tells whether a word is a keyword, in letters of any case. Whether the word may be is asked by Print alone.
 func Is(w api.Word, keyword string) bool {
-	return w.Kind == api.WordName && alike(w.Text, keyword) && may(w)
+	return w.Kind == api.WordName && alike(w.Text, keyword)
 }
 
 // bare tells whether a name is read as it is. Layer 1 leaves just such keys as they are.

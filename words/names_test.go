@@ -86,12 +86,22 @@ func TestIs(t *testing.T) {
 		{quoted(0, "match"), "MATCH", false}, {text(0, "match"), "MATCH", false}, {sign(0, "match"), "MATCH", false}, {api.Word{Text: "match"}, "MATCH", false},
 		{sign(0, "("), "(", false}, {number(0, 1), "1", false}, {number(0, 0), "", false}, {api.Word{}, "", false},
 		{name(0, "skip"), "s\u212aip", false}, {name(0, "set"), "\u017fet", false}, {name(0, "a"), "\x01", false}, {name(0, "a"), "!", false},
-		{name(0, ""), "", false}, {name(0, "1"), "1", false}, {name(0, "a b"), "A B", false}, {name(0, "\xff"), "\xff", false}, {name(0, "É"), "É", false},
-		{api.Word{Kind: api.WordName, Text: "match", Number: 1}, "MATCH", false},
-		{name(0, strings.Repeat("x", api.MaxName)), strings.Repeat("X", api.MaxName), true}, {name(0, strings.Repeat("x", api.MaxName+1)), strings.Repeat("X", api.MaxName+1), false},
+		{name(0, strings.Repeat("x", api.MaxName)), strings.Repeat("X", api.MaxName), true},
+		// Words that are read nowhere: their kind and their letters count, nothing else.
+		{name(0, ""), "", true}, {name(0, ""), "a", false}, {name(0, "1"), "1", true}, {name(0, "1a"), "1A", true}, {name(0, "1a"), "1b", false},
+		{name(0, "a b"), "A B", true}, {name(0, "a b"), "a_b", false}, {name(0, "a\x00"), "A\x00", true}, {name(0, "a\x00"), "a", false}, {name(0, "\xff"), "\xff", true}, {name(0, "\xff"), "\xfe", false},
+		{name(0, "É"), "É", true}, {name(0, "aÉ"), "AÉ", true}, {name(0, "\u017fet"), "set", false},
+		{api.Word{Kind: api.WordName, Text: "match", Number: 1}, "MATCH", true}, {api.Word{Kind: api.WordName, Text: "match", Number: 1<<64 - 1}, "matc", false},
+		{name(0, strings.Repeat("x", api.MaxName+1)), strings.Repeat("X", api.MaxName+1), true}, {name(0, strings.Repeat("x", api.MaxText+1)), strings.Repeat("X", api.MaxText+1), true},
+		{quoted(0, "1a"), "1a", false}, {api.Word{Kind: -1, Text: "a"}, "a", false}, {api.Word{Kind: 6, Text: "a"}, "a", false},
 	} {
 		if got := words.Is(x.w, x.keyword); got != x.want {
-			t.Error(i, x.w, x.keyword, got)
+			t.Errorf("%d: %.70q %.70q %v", i, x.w.Text, x.keyword, got)
+		}
+	}
+	for i, w := range wrong() {
+		if got := words.Is(w, w.Text); got != (w.Kind == api.WordName) {
+			t.Errorf("wrong %d: %v", i, got)
 		}
 	}
 }
