@@ -40,7 +40,7 @@ func find(l []api.Var, name string) (api.VarKind, bool) {
 
 func aggregate(e api.Expr) bool {
 	called := e.Kind == api.ExprCall && slices.Contains([]string{"count", "sum", "min", "max", "collect"}, e.Name)
-	return e.Kind == api.ExprCount || called && len(e.Kids) == 1
+	return e.Kind == api.ExprCount || called
 }
 
 func (a *asks) expr(e api.Expr, l []api.Var) {
@@ -140,6 +140,7 @@ func (a *asks) items(c api.Clause, ahead []api.Var) []api.Var {
 	var now []api.Var
 	for _, i := range c.Items {
 		if aggregate(i.Expr) {
+			a.need(i.Expr.Kind == api.ExprCount || len(i.Expr.Kids) == 1, api.ErrFunction)
 			for _, k := range i.Expr.Kids {
 				a.expr(k, ahead)
 			}
@@ -256,7 +257,7 @@ func (m *maker) call(deep int) api.Expr {
 	case m.one(8):
 		name = m.pick("count", "sum", "min", "max", "collect", "nope", "Abs")
 	}
-	if m.one(16) {
+	if m.one(16) || name == "count" && m.one(2) {
 		n = m.IntN(5)
 	}
 	return api.Expr{Kind: api.ExprCall, Name: name, Kids: m.kids(deep, n), Distinct: n > 0 && m.one(24)}
@@ -343,6 +344,15 @@ func (m *maker) clause() api.Clause {
 	return c
 }
 
+// aggregate is an aggregate's call, now and then not of one Kid.
+func (m *maker) aggregate() api.Expr {
+	n := 1
+	if m.one(16) {
+		n = m.IntN(4)
+	}
+	return api.Expr{Kind: api.ExprCall, Name: m.pick("count", "sum", "collect"), Kids: m.kids(1, n), Distinct: n > 0 && m.one(2)}
+}
+
 func (m *maker) items(c *api.Clause) {
 	for range 1 + m.IntN(4) {
 		i := api.Item{Expr: variable(m.variable(-1))}
@@ -350,7 +360,7 @@ func (m *maker) items(c *api.Clause) {
 		case 0:
 			i.Expr = m.simple()
 		case 1:
-			i.Expr = api.Expr{Kind: api.ExprCall, Name: m.pick("count", "sum", "collect"), Kids: m.kids(1, 1), Distinct: m.one(2)}
+			i.Expr = m.aggregate()
 		}
 		if i.Expr.Kind != api.ExprVar && !m.one(8) || m.one(3) {
 			i.As = m.fresh()

@@ -46,7 +46,7 @@ func TestQueriesOfVariablesThatAreNotThere(t *testing.T) {
 func TestQueriesOfFunctionsThatAreNotThere(t *testing.T) {
 	wrong(t, api.ErrFunction,
 		"^RETURN nope(1)", "^RETURN ID(1)", "^RETURN tostring(1)", "^RETURN abs()", "^RETURN abs(1, 2)", "^RETURN range(1)", "^RETURN range(1, 2, 3, 4)", "^RETURN coalesce()",
-		"^RETURN count(1, 2)", "^RETURN count()", "^RETURN sum(1, 2)", "^RETURN Count(1)", "^RETURN abs(DISTINCT 1)", "^RETURN coalesce(DISTINCT 1, 2)", "^RETURN count(nope(1))", "^RETURN avg(1)",
+		"^RETURN count(1, 2)", "^RETURN count()", "^RETURN sum(1, 2)", "^RETURN sum()", "^RETURN min(1, 2)", "^RETURN min()", "^RETURN max(1, 2)", "^RETURN max()", "^RETURN collect(1, 2)", "^RETURN collect()", "^RETURN count(DISTINCT 1, 2)", "^RETURN sum(1, 2, 3)", "^RETURN 1, count()", "^WITH count() AS x RETURN x", "^WITH collect(1, 2) AS x RETURN x", "^RETURN Count(1)", "^RETURN abs(DISTINCT 1)", "^RETURN coalesce(DISTINCT 1, 2)", "^RETURN count(nope(1))", "^RETURN avg(1)",
 		"^MATCH (a) WHERE nope(a) RETURN a", "^MATCH ({k: nope()}) RETURN 1", "^MATCH ()-[{k: nope()}]-() RETURN 1", "^UNWIND nope() AS x RETURN x", "^WITH nope() AS x RETURN x", "^RETURN 1 ORDER BY nope()", "^RETURN 1 SKIP nope()", "^RETURN 1 LIMIT nope()", "^WITH 1 AS x WHERE nope() RETURN x",
 		"^CREATE ({k: nope()})", "^CREATE ()-[:T {k: nope()}]->()", "MATCH (a) ^SET a.k = nope()",
 	)
@@ -58,6 +58,20 @@ func TestQueriesOfAggregatesWhereNoneMayBe(t *testing.T) {
 		"^MATCH (a) WHERE count(*) = 1 RETURN a", "^MATCH ({k: count(*)}) RETURN 1", "^MATCH ()-[{k: max(1)}]-() RETURN 1", "^UNWIND collect(1) AS x RETURN x", "^RETURN count(*) ORDER BY count(*)", "^RETURN 1 SKIP count(*)", "^RETURN 1 LIMIT sum(1)", "^WITH count(*) AS c WHERE count(*) > 1 RETURN c", "^WITH 1 AS x ORDER BY min(x) RETURN x",
 		"^CREATE ({k: count(*)})", "^CREATE ()-[:T {k: sum(1)}]->()", "MATCH (a) ^SET a.k = count(*)",
 	)
+}
+
+// A call of an aggregate with other than one Kid is asked whether it is one ahead of how many Kids it has.
+func TestQueriesOfAggregatesWithoutOneKid(t *testing.T) {
+	for _, a := range []string{"count()", "sum()", "min()", "max()", "collect()", "count(1, 2)", "sum(1, 2)", "min(1, 2)", "max(1, 2)", "collect(1, 2)", "count(DISTINCT 1, 2)", "sum(1, 2, 3)"} {
+		for _, s := range []string{
+			"^RETURN abs(?)", "^RETURN [?]", "^RETURN 1 + ?", "^RETURN count(?)", "^RETURN collect(DISTINCT ?)", "^WITH [?] AS x RETURN x", "^WITH sum(?) AS x RETURN x",
+			"^MATCH (a) WHERE ? RETURN a", "^MATCH (a) WHERE a.k = 1 AND ? = 1 RETURN a", "^MATCH ({k: ?}) RETURN 1", "^MATCH ()-[{k: ?}]-() RETURN 1", "^UNWIND ? AS x RETURN x", "MATCH (a) ^RETURN a ORDER BY ?", "^WITH 1 AS x ORDER BY ? RETURN x", "^RETURN 1 SKIP ?", "^RETURN 1 LIMIT ?", "^WITH 1 AS x WHERE ? RETURN x",
+			"^CREATE ({k: ?})", "^CREATE ()-[:T {k: ?}]->()", "MATCH (a) ^SET a.k = ?",
+		} {
+			wrong(t, api.ErrAggregate, strings.ReplaceAll(s, "?", a))
+		}
+		wrong(t, api.ErrFunction, "^RETURN "+a, "^WITH "+a+" AS x RETURN x", "^WITH "+a+" RETURN 1", "^RETURN 1, "+a+", "+a)
+	}
 }
 
 func TestQueriesOfVariablesOfAnotherKind(t *testing.T) {
@@ -107,10 +121,10 @@ func TestWhatIsWrongFirst(t *testing.T) {
 			"^CREATE ({k: x})-[:T]-()", "^CREATE ()-[:T {k: x}]->()-[:T]-()", "^CREATE (a {k: x}), (a:L)", "^SET x.k = nope()", "UNWIND [1] AS x ^SET y.k = 1, x.k = 1", "MATCH (a) UNWIND [1] AS x ^SET a.k = y, x.k = 1", "UNWIND [1] AS x ^REMOVE y.k, x.k", "UNWIND [1] AS x ^DELETE y, x", "MATCH (a) ^RETURN coalesce(b, nope())", "MATCH (a) ^RETURN abs(b.k + count(*))",
 		},
 		api.ErrFunction: {
-			"^RETURN nope(x)", "^RETURN nope(count(*))", "^RETURN abs(x, y)", "^RETURN nope() + x", "^RETURN [nope(), count(*), x]", "^RETURN count(x, y)", "^RETURN count(nope(x))", "^RETURN 1 ORDER BY nope() SKIP x", "^RETURN 1 LIMIT nope() RETURN 1", "^WITH nope() RETURN 1", "^WITH 1 AS x, nope() AS x RETURN 1", "^RETURN CASE WHEN nope() THEN x ELSE count(*) END", "^RETURN abs(DISTINCT count(*))",
+			"^RETURN nope(x)", "^RETURN nope(count(*))", "^RETURN abs(x, y)", "^RETURN nope() + x", "^RETURN [nope(), count(*), x]", "^RETURN count(x, y)", "^RETURN sum(count(*), x)", "^RETURN collect(sum(), x)", "^RETURN count(), x", "^RETURN count() RETURN 1", "^RETURN abs(count(), x)", "^RETURN count(nope(x))", "^RETURN 1 ORDER BY nope() SKIP x", "^RETURN 1 LIMIT nope() RETURN 1", "^WITH nope() RETURN 1", "^WITH 1 AS x, nope() AS x RETURN 1", "^RETURN CASE WHEN nope() THEN x ELSE count(*) END", "^RETURN abs(DISTINCT count(*))",
 		},
 		api.ErrAggregate: {
-			"^RETURN abs(count(x))", "^RETURN 1 + sum(nope())", "^RETURN count(*) + x", "^RETURN count(sum(x))", "^RETURN [max(nope()), x]", "^RETURN 1 ORDER BY count(x)", "^WITH abs(count(*)) RETURN 1", "^WITH 1 AS x, [count(*)] AS x RETURN 1",
+			"^RETURN abs(count(x))", "^RETURN 1 + sum(nope())", "^RETURN count(*) + x", "^RETURN count(sum(x))", "^RETURN [max(nope()), x]", "^RETURN abs(count(x, nope()))", "^RETURN [count(), x, nope()]", "^RETURN count(min(x, y))", "^RETURN 1 ORDER BY sum() SKIP x", "^RETURN 1 ORDER BY count(x)", "^WITH abs(count(*)) RETURN 1", "^WITH 1 AS x, [count(*)] AS x RETURN 1",
 		},
 		api.ErrKind: {
 			"UNWIND [1] AS x ^MATCH (x {k: y}) RETURN 1", "UNWIND [1] AS x ^MATCH (x)-[x]->() RETURN 1", "UNWIND [1] AS x ^CREATE (x:L)", "UNWIND [1] AS x ^CREATE (x {k: y})", "UNWIND [1] AS x ^CREATE (x)-[:T]-()", "UNWIND [1] AS x ^SET x.k = y", "UNWIND [1] AS x ^SET x:L, y:L", "UNWIND [1] AS x ^REMOVE x.k, y.k", "UNWIND [1] AS x ^DELETE x, y", "^MATCH ()-[r]->(r {k: x})", "^MATCH ()-[r]->(r) WHERE x",

@@ -107,6 +107,7 @@ func (k clause) item(e api.Expr) {
 		k.used(e, k.ahead)
 		return
 	}
+	k.called(e)
 	for _, kid := range e.Kids {
 		k.used(kid, k.ahead)
 	}

@@ -38,27 +38,32 @@ func functions() library {
 	}
 }
 
-// calls tells whether a call is of a function, or of an aggregate, that is there, with as many expressions as that one takes.
-func (l library) calls(e api.Expr) bool {
-	f, there := l[e.Name]
-	return there && f.least <= len(e.Kids) && len(e.Kids) <= f.most && (f.aggregate || !e.Distinct)
+// aggregate goes by a call's name alone: of how many expressions it is, is asked behind that.
+func (l library) aggregate(e api.Expr) bool {
+	return e.Kind == api.ExprCount || e.Kind == api.ExprCall && l[e.Name].aggregate
 }
 
-func (l library) aggregate(e api.Expr) bool {
-	return e.Kind == api.ExprCount || e.Kind == api.ExprCall && l[e.Name].aggregate && l.calls(e)
+// called gives up with a call that is not of a function, or of an aggregate, that is there, with as many expressions as that one takes.
+func (l library) called(e api.Expr) {
+	if e.Kind != api.ExprCall {
+		return
+	}
+	f, there := l[e.Name]
+	if !there || len(e.Kids) < f.least || f.most < len(e.Kids) || e.Distinct && !f.aggregate {
+		panic(api.ErrFunction)
+	}
 }
 
 // used gives up with what is wrong first with an expression.
 func (l library) used(e api.Expr, vars *scope) {
 	for x := range inside(e) {
-		switch {
-		case x.Kind == api.ExprVar:
+		if x.Kind == api.ExprVar {
 			vars.need(x.Name)
-		case l.aggregate(x):
-			panic(api.ErrAggregate)
-		case x.Kind == api.ExprCall && !l.calls(x):
-			panic(api.ErrFunction)
 		}
+		if l.aggregate(x) {
+			panic(api.ErrAggregate)
+		}
+		l.called(x)
 	}
 }
 

@@ -195,13 +195,16 @@ func TestSafeFromTheGroundUp(t *testing.T) {
 	have := vars("x n-n r-r")
 	operators := []string{"OR", "XOR", "AND", "=", "<>", "<", "<=", ">", ">=", "IN", "STARTS", "ENDS", "CONTAINS", "+", "-", "*", "/", "%"}
 	g := &grown{safe: map[string]bool{}, truth: map[string]bool{}}
-	for kind, l := range map[string][]string{
-		"truth": {"true", "null", "n:L"},
-		"safe":  {"1", "'a'", "x", "n", "r", "$p", "n.k", "r.k"},
-		"":      {"y", "x.k", "y.k", "x:L", "r:L", "y:L", "[1]", "[x]", "{k: 1}", "count(*)", "n[0]", "CASE WHEN true THEN true END"},
+	for _, first := range []struct {
+		kind  string
+		texts []string
+	}{ // in one order, since what is picked below hangs on it
+		{"truth", []string{"true", "null", "n:L"}},
+		{"safe", []string{"1", "'a'", "x", "n", "r", "$p", "n.k", "r.k"}},
+		{"", []string{"y", "x.k", "y.k", "x:L", "r:L", "y:L", "[1]", "[x]", "{k: 1}", "count(*)", "n[0]", "CASE WHEN true THEN true END"}},
 	} {
-		for _, s := range l {
-			g.add(expr(t, s), kind)
+		for _, s := range first.texts {
+			g.add(expr(t, s), first.kind)
 		}
 	}
 	g.grow(t, slices.Clone(g.all), operators)

@@ -25,13 +25,16 @@ func TestUsed(t *testing.T) {
 		},
 		api.ErrFunction: {
 			"nope()", "nope(x)", "Abs(x)", "ABS(x)", "toSTRING(x)", "abs()", "abs(x, x)", "id()", "id(x, x)", "labels()", "type(x, x)", "size()", "head(x, x)", "last()", "keys(x, x)", "toString()", "range()", "range(x)", "range(x, x, x, x)", "coalesce()",
-			"abs(DISTINCT x)", "range(DISTINCT 1, 2)", "coalesce(DISTINCT x)", "count()", "count(x, x)", "count(DISTINCT x, x)", "sum()", "min(x, x)", "max()", "collect(x, x)", "Count(x)", "SUM(x)", "avg(x)", "nope(DISTINCT x)",
-			"nope(y)", "abs(y, y)", "count(y, y)", "coalesce(x, nope(y), count(*))", "nope(count(*))", "abs(DISTINCT count(*))", "nope() + y", "NOT nope(y)",
+			"abs(DISTINCT x)", "range(DISTINCT 1, 2)", "coalesce(DISTINCT x)", "Count(x)", "Count()", "SUM(x)", "avg(x)", "nope(DISTINCT x)",
+			"nope(y)", "abs(y, y)", "coalesce(x, nope(y), count(*))", "nope(count(*))", "nope(count())", "abs(count(), 1)", "abs(DISTINCT sum(1, 2))", "[abs(), count()]", "abs(DISTINCT count(*))", "nope() + y", "NOT nope(y)",
 		},
 		api.ErrAggregate: {
 			"count(*)", "COUNT(*)", "count(x)", "count(DISTINCT x)", "sum(x)", "min(x)", "max(x)", "collect(x)", "collect(DISTINCT x)", "`count`(x)",
 			"1 + count(*)", "[count(*)]", "{k: sum(1)}", "abs(count(x))", "-count(*)", "NOT max(x)", "min(x).k", "x[count(*)]", "count(*) IS NULL", "CASE WHEN true THEN count(*) END", "count(*):L",
 			"count(y)", "sum(nope())", "count(count(y))", "[x, count(*), y]", "abs(max(y))", "count(*) + nope()",
+			"count()", "sum()", "min()", "max()", "collect()", "count(x, x)", "sum(x, x)", "min(x, x)", "max(x, x)", "collect(x, x)", "count(DISTINCT x, x)", "sum(x, x, x)", "`count`()",
+			"abs(count())", "[collect(1, 2)]", "1 + sum()", "{k: min(x, x)}", "NOT max()", "-count()", "x[collect(x, x)]", "sum() IS NULL", "count().k", "CASE WHEN count() THEN 1 END", "CASE WHEN x THEN min() ELSE y END",
+			"count(y, y)", "sum(nope(), y)", "count(sum(), y)", "[count(), y, nope()]", "collect(abs(), 1)",
 		},
 	} {
 		for _, s := range l {
@@ -97,10 +100,12 @@ func TestUsesOfExpressionsThatLayer4Refuses(t *testing.T) {
 	}
 }
 
+// A call is an aggregate's by its name, however many Kids it has.
 func TestAggregate(t *testing.T) {
 	for s, want := range map[string]bool{
 		"count(*)": true, "COUNT(*)": true, "count(x)": true, "sum(x)": true, "min(x)": true, "max(x)": true, "collect(x)": true, "count(DISTINCT x)": true, "sum(DISTINCT x)": true, "min(DISTINCT x)": true, "max(DISTINCT 1)": true, "collect(DISTINCT x)": true, "count(count(*))": true, "sum(nope())": true, "(count(*))": true,
-		"count()": false, "count(x, y)": false, "sum(x, y)": false, "collect()": false, "min(DISTINCT x, y)": false, "Count(x)": false, "COUNT(x)": false, "abs(x)": false, "coalesce(x)": false, "range(1, 2)": false, "nope(x)": false, "abs(count(*))": false, "[count(*)]": false, "1 + count(*)": false, "-count(*)": false, "NOT count(x)": false, "count": false, "1": false, "$count": false, "x.count": false, "'count'": false, "null": false, "count(*) IS NULL": false,
+		"count()": true, "sum()": true, "min()": true, "max()": true, "collect()": true, "count(x, y)": true, "sum(x, y)": true, "min(x, y)": true, "max(x, y)": true, "collect(x, y)": true, "min(DISTINCT x, y)": true, "max(x, y, z)": true, "count(nope(), sum())": true,
+		"abs(count())": false, "[collect(x, y)]": false, "-sum()": false, "Count()": false, "nope()": false, "abs()": false, "Count(x)": false, "COUNT(x)": false, "abs(x)": false, "coalesce(x)": false, "range(1, 2)": false, "nope(x)": false, "abs(count(*))": false, "[count(*)]": false, "1 + count(*)": false, "-count(*)": false, "NOT count(x)": false, "count": false, "1": false, "$count": false, "x.count": false, "'count'": false, "null": false, "count(*) IS NULL": false,
 		"CASE WHEN true THEN count(*) END": false,
 	} {
 		if sema.Aggregate(expr(t, s)) != want {
