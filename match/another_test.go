@@ -90,6 +90,10 @@ func (m another) kinds(c api.Clause) []api.Var {
 
 // asked is ErrArg, or OK. The parameters are sought in the clause's text.
 func (m another) asked(c api.Clause) api.Errno {
+	bad := func(v api.Value) bool { return value.Check(v) != api.OK }
+	if slices.ContainsFunc(m.Row, bad) || slices.ContainsFunc(m.Params, func(p api.Param) bool { return bad(p.Value) }) {
+		return api.ErrArg
+	}
 	if _, no := sema.Clause(c, m.kinds(c)...); no != api.OK || len(m.Row) != len(m.Columns) {
 		return api.ErrArg
 	}
@@ -274,6 +278,14 @@ func (c chance) place() api.Place {
 	if c.IntN(3) > 0 {
 		p.Params = append(p.Params, api.Param{Name: "q", Value: pick(c, value.Int(2), value.Null(), value.Bool(true))})
 	}
+	// Now and then a value that may not be, though it goes by what it is taken for.
+	bad := pick(c, node(-1), api.Value{Kind: api.ValueNode, Int: c.Int64N(3), Text: "x"}, api.Value{Text: "x"}, api.Value{Kind: api.ValueInt, Int: 1, Bool: true}, value.List(value.String("\xff")))
+	switch at := c.IntN(40); {
+	case at < len(p.Row):
+		p.Row[at] = bad
+	case at < len(p.Row)+len(p.Params):
+		p.Params[at-len(p.Row)].Value = bad
+	}
 	return p
 }
 
@@ -382,6 +394,11 @@ func TestAnotherWay(t *testing.T) {
 			t.Fatalf("%v: %s: %v %v", m.Place, textOf(x), l, wrong)
 		}
 		counts[strings.Trim(told(nil, no), "!")]++
+		if refuses := func(v api.Value) bool { return value.Check(v) != api.OK }; slices.ContainsFunc(m.Row, refuses) {
+			counts["bad row"]++
+		} else if slices.ContainsFunc(m.Params, func(p api.Param) bool { return refuses(p.Value) }) {
+			counts["bad parameter"]++
+		}
 		if x.Optional && n == 0 && no == api.OK {
 			counts["optional"]++
 		}
@@ -395,7 +412,7 @@ func TestAnotherWay(t *testing.T) {
 			counts["paths"]++
 		}
 	}
-	for _, name := range []string{"", "arg", "zero", "type", "rows", "where", "paths", "optional"} {
+	for _, name := range []string{"", "arg", "zero", "type", "rows", "where", "paths", "optional", "bad row", "bad parameter"} {
 		if counts[name] < 300 {
 			t.Error(name, counts[name])
 		}

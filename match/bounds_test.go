@@ -84,8 +84,6 @@ func TestWrongAheadOfTooMany(t *testing.T) {
 		finds{"(a), (b {k: 1 / 0})", "!zero"},
 		finds{"(a), (b), (c {k: 1 / 0})", "!zero"},
 	)
-	// In a row that may not be, all are wrong.
-	hold(t, g, place("x", value.String("\xff")), finds{"(a), (b) WHERE true", "!arg"})
 }
 
 // Where nothing can go wrong, ways are not looked for behind MaxRows rows, nor where a part fits no node.

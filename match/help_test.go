@@ -152,8 +152,20 @@ func hold(t *testing.T, g *graph.Graph, p api.Place, rows ...finds) {
 
 // badValues are values that layer 1 refuses.
 func badValues() map[string]api.Value {
+	deep := value.Null()
+	for range api.MaxDepth {
+		deep = value.List(deep)
+	}
 	return map[string]api.Value{
 		"no kind":           {Kind: 8},
+		"a kind below 0":    {Kind: -1},
+		"a number's text":   {Kind: api.ValueInt, Text: "x"},
+		"a node's text":     {Kind: api.ValueNode, Text: "x"},
+		"a rel below 0":     rel(-1 << 63),
+		"a key too much":    {Kind: api.ValueMap, Keys: []string{"k"}},
+		"keys that fall":    {Kind: api.ValueMap, Keys: []string{"b", "a"}, List: make([]api.Value, 2)},
+		"a key of no UTF-8": {Kind: api.ValueMap, Keys: []string{"\xff"}, List: make([]api.Value, 1)},
+		"too deep":          deep,
 		"a truth of a text": {Kind: api.ValueBool, Text: "a"},
 		"no UTF-8":          value.String("\xff"),
 		"a node below 0":    node(-1),

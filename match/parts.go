@@ -6,6 +6,7 @@ import (
 	"lattice/api"
 	"lattice/graph"
 	"lattice/sema"
+	"lattice/value"
 )
 
 // part is a node or a relationship of a path.
@@ -65,7 +66,7 @@ func asked(g *graph.Graph, p api.Place, c api.Clause) []api.Var {
 	if !g.There() {
 		panic(api.ErrNil)
 	}
-	if c.Kind != api.ClauseMatch || len(p.Row) != len(p.Columns) {
+	if c.Kind != api.ClauseMatch || !mayBe(p) {
 		panic(api.ErrArg)
 	}
 	vars, no := sema.Clause(c, kinds(p, c)...)
@@ -82,6 +83,21 @@ func asked(g *graph.Graph, p api.Place, c api.Clause) []api.Var {
 		}
 	})
 	return vars
+}
+
+// mayBe tells whether a place has a value for each column, and all its values may be. Layer 7 asks it too, but only where there are Props or a Where: what is answered must not hang on these.
+func mayBe(p api.Place) bool {
+	for _, v := range p.Row {
+		if value.Check(v) != api.OK {
+			return false
+		}
+	}
+	for _, x := range p.Params {
+		if value.Check(x.Value) != api.OK {
+			return false
+		}
+	}
+	return len(p.Row) == len(p.Columns)
 }
 
 // kinds are the columns, with the kinds that they are taken to be.

@@ -1,6 +1,7 @@
 package match_test
 
 import (
+	"strings"
 	"testing"
 
 	"lattice/api"
@@ -161,42 +162,75 @@ func TestParametersThatAreNotThere(t *testing.T) {
 	hold(t, world(t), p, finds{"(a {k: $p})", "1 n0;1 n2;"}, finds{"(a) WHERE a.k = $p", "1 n0;1 n2;"})
 }
 
-// Values that may not be are layer 7's ErrArg, where it is asked; else they stand in the row as they are.
+// Values that may not be are ErrArg, in whatever column or parameter, whether Props or a Where ask for them or nothing does, with ways or without.
 func TestValuesThatMayNotBe(t *testing.T) {
-	g := world(t)
+	one := value.Int(1)
 	for name, v := range badValues() {
-		places := map[string]api.Place{"a column": place("x", v), "a parameter": with(place("x", value.Int(1)), "q", v)}
-		for where, p := range places {
-			for _, s := range []string{"(a {k: 1})", "(a:C {})", "(a)-[{w: 1}]->(b)", "(a {k: 1 / 0})", "(a) WHERE true", "(a) WHERE 1 / 0", "OPTIONAL MATCH (a:A) WHERE false", "(a:A)-->() WHERE a.k = 1"} {
-				if got := told(match.Find(g, p, clause(t, s))); got != "!arg" {
-					t.Errorf("%s, %s, %s: %s", name, where, s, got)
+		for where, p := range map[string]api.Place{
+			"a column":               place("x", v),
+			"the first column":       place("x", v, "y", one),
+			"the last column":        place("y", one, "x", v),
+			"a column of no name":    place("", v),
+			"a second column":        place("x", one, "x", v),
+			"a node's column":        place("a", v),
+			"a parameter":            with(api.Place{}, "q", v),
+			"the last parameter":     with(place("x", one), "p", one, "q", v),
+			"a second parameter":     with(place("x", one), "q", one, "q", v),
+			"a parameter of no name": with(place("x", one), "", v),
+			"both":                   with(place("x", v), "q", v),
+		} {
+			for _, s := range []string{
+				"(a)", "()", "(a), (b)", "(:B)-->(b)", "(a)-[r]-(a)", "(a:C)", "(a:C)-->(b)", "OPTIONAL MATCH (a)", "OPTIONAL MATCH (a:C)",
+				"(a {k: 1})", "(a:C {})", "(a)-[{w: 1}]->(b)", "(a {k: 1 / 0})", "(a {k: 1 + 'x'}), (b)",
+				"(a) WHERE true", "(a) WHERE null", "(a) WHERE 1 / 0", "(a:C) WHERE true", "(a:C) WHERE 1 / 0", "(a:A)-->() WHERE a.k = 1", "OPTIONAL MATCH (a:A) WHERE false", "OPTIONAL MATCH (a:C) WHERE false",
+			} {
+				for _, g := range []*graph.Graph{world(t), plain(t, 0)} {
+					refused(t, name+", "+where+", "+s, g, p, clause(t, s), api.ErrArg)
 				}
 			}
-			if n, no := match.Ways(g, p, clause(t, "(a {k: 1})")); n != 0 || no != api.ErrArg {
-				t.Errorf("%s, %s: %d %v", name, where, n, no)
-			}
-			if n, no := match.Ways(g, p, clause(t, "(a) WHERE true")); n != 4 || no != api.OK {
-				t.Errorf("%s, %s: %d %v", name, where, n, no)
-			}
-			l, no := match.Find(g, p, clause(t, "(:B)-->(b)"))
-			if no != api.OK || len(l) != 3 || len(l[0]) != 2 || l[0][1].Int != 0 || l[1][1].Int != 2 || l[2][1].Int != 2 || l[0][0].Kind != p.Row[0].Kind {
-				t.Errorf("%s, %s: %v", name, where, no)
-			}
-			if l, no := match.Find(g, p, clause(t, "(a:C) WHERE true")); no != api.OK || len(l) != 0 {
-				t.Errorf("%s, %s: %v %v", name, where, l, no)
-			}
-			if l, no := match.Kinds(g, p, clause(t, "(a)")); no != api.OK || len(l) != 1 || l[0].Name != "x" {
-				t.Errorf("%s, %s: %v %v", name, where, l, no)
+			refused(t, name+", "+where+", no graph", nil, p, clause(t, "(a)"), api.ErrNil)
+		}
+	}
+	// One that has more than a node has is none, though its Kind and its number are a node's.
+	refused(t, "more than a node", world(t), place("a", api.Value{Kind: api.ValueNode, Int: 1, Text: "x"}), clause(t, "(a)-->(b)"), api.ErrArg)
+	// Too many ways count behind it.
+	many := plain(t, 300)
+	refused(t, "many ways", many, place("x", value.String("\xff")), clause(t, "(a), (b)"), api.ErrArg)
+	refused(t, "many ways", many, with(api.Place{}, "q", value.String("\xff")), clause(t, "(a), (b) WHERE true"), api.ErrArg)
+}
+
+// Values that just may be stand in the row as they are.
+func TestValuesThatMayBe(t *testing.T) {
+	deep := value.Null()
+	for range api.MaxDepth - 1 {
+		deep = value.List(deep)
+	}
+	g := world(t)
+	for name, v := range map[string]api.Value{
+		"nothing":          value.Null(),
+		"a truth":          value.Bool(true),
+		"a number":         value.Int(-1 << 63),
+		"a node":           node(1 << 62),
+		"a relationship":   rel(0),
+		"as long a text":   value.String(strings.Repeat("t", api.MaxText)),
+		"as long a list":   {Kind: api.ValueList, List: make([]api.Value, api.MaxRows)},
+		"as deep a list":   deep,
+		"a map":            {Kind: api.ValueMap, Keys: []string{"", "k"}, List: []api.Value{deep.List[0], node(0)}},
+		"lists of nothing": {Kind: api.ValueText, Keys: []string{}, List: []api.Value{}},
+	} {
+		for where, p := range map[string]api.Place{"a column": place("x", v), "a parameter": with(place("x", value.Int(1)), "q", v)} {
+			for s, want := range map[string]int{"(a:A)": 2, "(a:A {})": 2, "(a:A) WHERE true": 2, "(a:C)": 0} {
+				l, no := match.Find(g, p, clause(t, s))
+				if no != api.OK || len(l) != want || want > 0 && !value.Same(l[0][0], p.Row[0]) {
+					t.Errorf("Find, %s, %s, %s: %d %v", name, where, s, len(l), no)
+				}
+				if n, no := match.Ways(g, p, clause(t, s)); no != api.OK || n != want {
+					t.Errorf("Ways, %s, %s, %s: %d %v", name, where, s, n, no)
+				}
+				if l, no := match.Kinds(g, p, clause(t, s)); no != api.OK || len(l) != 1 || l[0].Name != "x" {
+					t.Errorf("Kinds, %s, %s, %s: %v %v", name, where, s, l, no)
+				}
 			}
 		}
 	}
-	// A node below 0 is taken for a node, and is none that is there.
-	for _, v := range []api.Value{node(-1), node(-1 << 63)} {
-		if l, no := match.Kinds(g, place("a", v), clause(t, "(a)")); no != api.OK || l[0].Kind != api.VarNode {
-			t.Error(l, no)
-		}
-		hold(t, g, place("a", v), finds{"(a)", ""}, finds{"(b)-->(a)", ""}, finds{"OPTIONAL MATCH (a)-->(b)", "? null;"})
-	}
-	// One that has more than a node has goes by its number, and stands in the row as it is.
-	hold(t, g, place("a", api.Value{Kind: api.ValueNode, Int: 1, Text: "x"}), finds{"(a)-->(b)", "? n2;"}, finds{"(b)-->(a)", "? n0;? n0;"}, finds{"(a) WHERE true", "!arg"})
 }
