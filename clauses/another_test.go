@@ -257,25 +257,8 @@ func (m *another) fold(e api.Expr, rows [][]api.Value) api.Value {
 	return l[len(l)-1]
 }
 
-// create asks whether all can be made ahead of making anything.
+// create makes all there is without a bound, and asks then whether it is too much.
 func (m *another) create(c api.Clause) (rows [][]api.Value) {
-	for _, row := range m.Rows {
-		for _, p := range c.Paths {
-			for _, n := range p.Nodes {
-				m.storable(row, n.Has, n.Props)
-				if slices.ContainsFunc(m.Vars, func(v api.Var) bool { return v.Name == n.Var }) {
-					v := m.at(row, n.Var)
-					_, there := m.ahead.Node(v.Int)
-					if v.Kind == api.ValueNull || !there && len(p.Nodes) > 1 {
-						panic(api.ErrWrong)
-					}
-				}
-			}
-			for _, r := range p.Rels {
-				m.storable(row, r.Has, r.Props)
-			}
-		}
-	}
 	for _, row := range m.Rows {
 		has := map[string]api.Value{}
 		for i, v := range m.Vars {
@@ -289,6 +272,9 @@ func (m *another) create(c api.Clause) (rows [][]api.Value) {
 			out = append(out, has[v.Name])
 		}
 		rows = append(rows, out)
+	}
+	if m.now.NextNode > 1<<62 || m.now.NextRel > 1<<62 || len(m.now.Nodes)+len(m.now.Rels) > api.MaxElements {
+		panic(api.ErrMany)
 	}
 	return rows
 }
@@ -308,12 +294,18 @@ func (m *another) storable(row []api.Value, has bool, e api.Expr) (l []api.Prop)
 func (m *another) createPath(row []api.Value, p api.Path, has map[string]api.Value) {
 	var ends []int64
 	for _, n := range p.Nodes {
+		props := m.storable(row, n.Has, n.Props)
 		v, there := has[n.Var]
-		if !there || n.Var == "" {
+		if there && v.Kind == api.ValueNull {
+			panic(api.ErrWrong)
+		}
+		if !there {
 			labels := slices.Compact(slices.Sorted(slices.Values(n.Labels)))
 			v = node(m.now.NextNode)
-			m.now.Nodes = append(m.now.Nodes, api.Node{ID: v.Int, Labels: labels, Props: m.storable(row, n.Has, n.Props)})
+			m.now.Nodes = append(m.now.Nodes, api.Node{ID: v.Int, Labels: labels, Props: props})
 			m.now.NextNode++
+		}
+		if n.Var != "" {
 			has[n.Var] = v
 		}
 		ends = append(ends, v.Int)
@@ -323,13 +315,19 @@ func (m *another) createPath(row []api.Value, p api.Path, has map[string]api.Val
 		if r.Dir == -1 {
 			made.From, made.To = made.To, made.From
 		}
+		if !hasNode(m.now, made.From) || !hasNode(m.now, made.To) {
+			panic(api.ErrWrong)
+		}
 		m.now.Rels = append(m.now.Rels, made)
 		m.now.NextRel++
-		has[r.Var] = rel(made.ID)
+		if r.Var != "" {
+			has[r.Var] = rel(made.ID)
+		}
 	}
-	if m.now.NextNode > 1<<62 || m.now.NextRel > 1<<62 || len(m.now.Nodes)+len(m.now.Rels) > api.MaxElements {
-		panic(api.ErrMany)
-	}
+}
+
+func hasNode(a api.Graph, id int64) bool {
+	return slices.ContainsFunc(a.Nodes, func(n api.Node) bool { return n.ID == id })
 }
 
 func (m *another) set(c api.Clause) [][]api.Value {
@@ -459,7 +457,11 @@ func (c chance) graph() api.Graph {
 	return g
 }
 
+// node is one that is there, or is not, or is made later.
 func (c chance) node() api.Value {
+	if c.IntN(60) == 0 {
+		return node(1<<62 - 3 + c.Int64N(6))
+	}
 	return pick(c, node(c.Int64N(6)), node(c.Int64N(6)), node(c.Int64N(6)), value.Null())
 }
 
@@ -688,6 +690,9 @@ func TestAnotherWay(t *testing.T) {
 		if no == api.OK && !graph.Same(a, now) {
 			counts[kind+" changes"]++
 		}
+		if x.Kind == api.ClauseCreate && len(got.Rows) > 0 && slices.ContainsFunc(now.Rels, func(r api.Rel) bool { return ownNodeMade(a, f, r) }) {
+			counts["CREATE made"]++
+		}
 	}
 	for _, s := range strings.Fields("MATCH OPTIONAL UNWIND WITH RETURN CREATE SET REMOVE DELETE DETACH") {
 		for _, what := range []string{"arg", "error 0", "rows"} {
@@ -696,9 +701,18 @@ func TestAnotherWay(t *testing.T) {
 			}
 		}
 	}
-	for _, s := range []string{"MATCH wrong", "OPTIONAL wrong", "UNWIND wrong", "WITH wrong", "RETURN wrong", "CREATE wrong", "SET wrong", "CREATE many", "DELETE attached", "CREATE changes", "SET changes", "REMOVE changes", "DELETE changes", "DETACH changes"} {
+	for _, s := range []string{"MATCH wrong", "OPTIONAL wrong", "UNWIND wrong", "WITH wrong", "RETURN wrong", "CREATE wrong", "SET wrong", "CREATE many", "DELETE attached", "CREATE changes", "CREATE made", "SET changes", "REMOVE changes", "DELETE changes", "DETACH changes"} {
 		if counts[s] < 50 {
 			t.Error(s, counts[s])
 		}
 	}
+}
+
+// ownNodeMade tells whether a relationship is of a node that a frame had before it was there.
+func ownNodeMade(a api.Graph, f api.Frame, r api.Rel) bool {
+	return slices.ContainsFunc([]int64{r.From, r.To}, func(id int64) bool {
+		return !hasNode(a, id) && slices.ContainsFunc(f.Rows, func(row []api.Value) bool {
+			return slices.ContainsFunc(row, func(v api.Value) bool { return v.Kind == api.ValueNode && v.Int == id })
+		})
+	})
 }

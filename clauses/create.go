@@ -10,15 +10,16 @@ import (
 // making is a clause of CREATE that is done, path by path.
 type making struct {
 	*doing
-	places map[string]int // where the variables behind the clause stand
-	asks   []patternAsks  // of each path
-	many   bool           // there was one element too many
+	places map[string]int              // where the variables behind the clause stand
+	asks   []patternAsks               // of each path
+	many   bool                        // there was one element too many
+	beyond struct{ first, next int64 } // the numbers of the nodes that were too many
 }
 
 // patternAsks are the Props of a path's nodes and relationships.
 type patternAsks struct{ nodes, rels []asking }
 
-// created is what CREATE makes. Behind one element too many no other is made; but what goes wrong counts ahead of that, so all rows are gone through.
+// created is what CREATE makes. Behind one element too many no other is made; but what goes wrong counts ahead of that, so all rows are gone through, and nodes get the numbers beyond.
 func (d *doing) created() [][]api.Value {
 	m := &making{doing: d, places: placesOf(d.behind)}
 	for _, p := range d.clause.Paths {
@@ -55,13 +56,14 @@ func (m *making) path(p api.Path, asks patternAsks, out []api.Value) {
 	ends := make([]int64, len(p.Nodes))
 	for i, n := range p.Nodes {
 		props := storable(asks.nodes[i].props(n.Has, out))
-		if m.isVariable(n.Var) {
-			ends[i] = m.known(out[m.places[n.Var]], len(p.Rels) > 0)
-		} else if v := m.at(n.Var, out); v.Kind == api.ValueNode {
-			ends[i] = v.Int
-		} else {
-			ends[i] = m.made(v, api.ValueNode, func() (int64, api.Errno) { return m.graph.AddNode(n.Labels, props) })
+		v := m.at(n.Var, out)
+		if m.isVariable(n.Var) && none(*v) {
+			panic(api.ErrWrong)
 		}
+		if none(*v) {
+			*v = api.Value{Kind: api.ValueNode, Int: m.node(n.Labels, props)}
+		}
+		ends[i] = v.Int
 	}
 	for i, r := range p.Rels {
 		props := storable(asks.rels[i].props(r.Has, out))
@@ -69,7 +71,7 @@ func (m *making) path(p api.Path, asks patternAsks, out []api.Value) {
 		if r.Dir < 0 {
 			from, to = to, from
 		}
-		m.made(m.at(r.Var, out), api.ValueRel, func() (int64, api.Errno) { return m.graph.AddRel(from, to, r.Types[0], props) })
+		*m.at(r.Var, out) = api.Value{Kind: api.ValueRel, Int: m.rel(from, to, r.Types[0], props)}
 	}
 }
 
@@ -86,28 +88,46 @@ func (m *making) at(name string, row []api.Value) *api.Value {
 	return &row[m.places[name]]
 }
 
-// known is the number of a node that a variable has. One that gets a relationship must be there.
-func (m *making) known(v api.Value, linked bool) int64 {
-	_, there := m.ahead.Node(v.Int)
-	if none(v) || linked && !there {
-		panic(api.ErrWrong)
+// node makes a node, unless there was one element too many.
+func (m *making) node(labels []string, props []api.Prop) int64 {
+	if !m.many {
+		id, no := m.graph.AddNode(labels, props)
+		if no != api.ErrMany {
+			need(no)
+			return id
+		}
+		m.tooMany()
 	}
-	return v.Int
+	m.beyond.next++
+	return m.beyond.next - 1
 }
 
-// made makes an element, unless there was one too many.
-func (m *making) made(v *api.Value, kind api.ValueKind, add func() (int64, api.Errno)) int64 {
-	if m.many {
-		return 0
+// rel makes a relationship, unless there was one element too many. Both nodes must be there by now, whoever made them.
+func (m *making) rel(from, to int64, kind string, props []api.Prop) int64 {
+	if !m.many {
+		id, no := m.graph.AddRel(from, to, kind, props)
+		if no != api.ErrMany {
+			need(no)
+			return id
+		}
+		m.tooMany()
 	}
-	id, no := add()
-	if no == api.ErrMany {
-		m.many = true
-		return 0
+	if !m.there(from) || !m.there(to) {
+		panic(api.ErrWrong)
 	}
-	need(no)
-	*v = api.Value{Kind: kind, Int: id}
-	return id
+	return 0
+}
+
+func (m *making) tooMany() {
+	m.many = true
+	m.beyond.first = m.graph.Tell().NextNode
+	m.beyond.next = m.beyond.first
+}
+
+// there tells whether a node would be there by now, had none been too many.
+func (m *making) there(id int64) bool {
+	_, is := m.graph.Node(id)
+	return is || m.beyond.first <= id && id < m.beyond.next
 }
 
 // storable gives up with properties that can't be stored; those that are nothing are left out when they are.

@@ -52,6 +52,13 @@ func kinds(a api.Graph) []string {
 	return l
 }
 
+// numbersCount tells whether a clause of CREATE gets a frame with nodes whose numbers a new one may get: whether they are there in time hangs on the rows' order.
+func numbersCount(a api.Graph, f api.Frame, c api.Clause) bool {
+	return c.Kind == api.ClauseCreate && slices.ContainsFunc(f.Rows, func(row []api.Value) bool {
+		return slices.ContainsFunc(row, func(v api.Value) bool { return v.Kind == api.ValueNode && v.Int >= a.NextNode })
+	})
+}
+
 // What a clause answers does not hang on the order of the rows, but for CREATE's numbers and what SET sets last.
 func TestRowsInAnyOrder(t *testing.T) {
 	c := chance{rand.New(rand.NewPCG(9, 3))}
@@ -61,6 +68,9 @@ func TestRowsInAnyOrder(t *testing.T) {
 		g, h := made(t, a), made(t, a)
 		one, no := do(t, g, f, x, params...)
 		other, wrong := do(t, h, shuffled(c, f), x, params...)
+		if numbersCount(a, f, x) {
+			continue
+		}
 		same := no == wrong
 		switch x.Kind {
 		case api.ClauseCreate:

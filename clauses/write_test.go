@@ -77,6 +77,42 @@ func TestCreateOnVariables(t *testing.T) {
 	)
 }
 
+// A variable's node must be there when its relationship is made, not ahead of the clause: it may be one that this path, another one or an earlier row has made.
+func TestCreateOnNodesItMade(t *testing.T) {
+	none := func(t *testing.T) *graph.Graph { return made(t, api.Graph{NextNode: 3}) }
+	holdGraphs(t, none, frame("n:a", row(node(3))),
+		draws{"CREATE ()<-[:U]-(a)", "n3;", "3; r0 3-U->3; 4 1"},
+		draws{"CREATE (a)-[:U]->()", "n3;", "3; r0 3-U->3; 4 1"},
+		draws{"CREATE (a)-[r:U]->(b)", "n3 r0 n3;", "3; r0 3-U->3; 4 1"},
+		draws{"CREATE (), (a)-[:U]->(a)", "n3;", "3; r0 3-U->3; 4 1"},
+		draws{"CREATE (a)-[:U]->(a), ()", "!wrong", "3 0"},
+		draws{"CREATE (a)-[:U]->(a)", "!wrong", "3 0"},
+	)
+	holdGraphs(t, none, frame("n:a", row(node(4))),
+		draws{"CREATE ()<-[:U]-(a)", "!wrong", "3 0"},
+		draws{"CREATE ()-[:U]->(a)", "!wrong", "3 0"},
+		draws{"CREATE ()-[:U]->()-[:U]->(a)", "n4;", "3; 4; r0 3-U->4; r1 4-U->4; 5 2"},
+		draws{"CREATE (b), (a)<-[:U]-(b)-[:U]->()", "n4 n3;", "3; 4; r0 3-U->4; r1 3-U->4; 5 2"},
+	)
+	one := func(t *testing.T) *graph.Graph { return made(t, api.Graph{Nodes: make([]api.Node, 1), NextNode: 3}) }
+	holdGraphs(t, one, frame("n:a", row(node(0)), row(node(3))),
+		draws{"CREATE ()<-[:U]-(a)", "n0;n3;", "0; 3; 4; r0 0-U->3; r1 3-U->4; 5 2"},
+		draws{"CREATE (a)-[:U]->(a)", "!wrong", "0; 3 0"},
+		draws{"CREATE (a)-[:U]->(a), ()", "n0;n3;", "0; 3; 4; r0 0-U->0; r1 3-U->3; 5 2"},
+	)
+	// Rows are gone through as they stand: what is made later does not count.
+	holdGraphs(t, one, frame("n:a", row(node(4)), row(node(0))),
+		draws{"CREATE ()<-[:U]-(a)", "!wrong", "0; 3 0"},
+	)
+	holdGraphs(t, one, frame("n:a", row(node(0)), row(node(9))),
+		draws{"CREATE ()<-[:U]-(a)", "!wrong", "0; 3 0"},
+	)
+	// Its labels and properties are still those ahead of the clause.
+	holdGraphs(t, one, frame("n:a", row(node(3))),
+		draws{"CREATE (b:L {k: 1}), (a)-[:U {v: a.k, w: a:L}]->()", "n3 n3;", "0; 3:L {k: 1}; 4; r0 3-U->4 {w: false}; 5 1"},
+	)
+}
+
 // What Props are worth hangs on the graph ahead of the clause, not on what earlier rows, or parts, have made.
 func TestCreateAheadOfTheClause(t *testing.T) {
 	holdGraphs(t, pair, frame("n:a n:new", row(node(0), node(3)), row(node(0), node(3))),

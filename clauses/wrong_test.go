@@ -201,4 +201,12 @@ func TestWhichErrorCounts(t *testing.T) {
 			does{"CREATE (c {k: x}), (d {k: a.k})", "!many"},
 		)
 	}
+	// Of what is too many, too, a node is there when its relationship comes, or is not: the numbers go on.
+	next := int64(api.MaxElements - 1)
+	for first, want := range map[int64]string{next - 1: "!many", next: "!many", next + 1: "!many", next + 2: "!wrong", 1 << 40: "!wrong"} {
+		hold(t, full, frame("n:a", row(node(first)), row(node(0))), does{"CREATE (), (c), (c)-[:T]->(a)", want})
+	}
+	for second, want := range map[int64]string{next + 1: "!many", next + 3: "!many", next + 4: "!wrong"} {
+		hold(t, full, frame("n:a", row(node(0)), row(node(second))), does{"CREATE (a)<-[:T]-(c)-[:T]->(d)-[:T]->(c)", want})
+	}
 }
